@@ -82,15 +82,51 @@ func (s *Session) Print() string {
 }
 
 // Points tells what a variable may point to (P8, P9).
-func (s *Session) Points(v string, fields string) (string, bool, Errno) { return "", false, OK }
+func (s *Session) Points(v string, fields string) (string, bool, Errno) {
+	name, ok := readName(s.stmts, v)
+	if !ok {
+		return "", false, ErrName
+	}
+	if !isFields(fields) {
+		return "", false, ErrField
+	}
+	told := leastTable(s.stmts, fields)
+	exact := leastTable(s.stmts, allFields)
+	found := told.of(name)
+	return found.text(), found == exact.of(name), OK
+}
 
 // Alias tells whether two variables may point to the same (P10).
 func (s *Session) Alias(v string, w string, fields string) (bool, bool, Errno) {
-	return false, false, OK
+	one, oneOK := readName(s.stmts, v)
+	other, otherOK := readName(s.stmts, w)
+	if !oneOK || !otherOK {
+		return false, false, ErrName
+	}
+	if !isFields(fields) {
+		return false, false, ErrField
+	}
+	told := leastTable(s.stmts, fields)
+	exact := leastTable(s.stmts, allFields)
+	both := told.meet(one, other)
+	return both, both == exact.meet(one, other), OK
 }
 
 // Batch writes what every variable may point to (P11).
-func (s *Session) Batch() string { return "" }
+func (s *Session) Batch() string {
+	exact := leastTable(s.stmts, allFields)
+	var out []byte
+	for v := byte(firstVariable); v <= lastVariable; v++ {
+		if names(s.stmts, v) {
+			found := exact.of(v)
+			text := found.text()
+			out = append(out, v, ':')
+			out = append(out, text...)
+			out = append(out, ';')
+		}
+	}
+	return string(out)
+}
 
 // Refine answers the fewest fields that need be told apart (P12).
 func (s *Session) Refine(v string) (string, Errno) { return "", OK }

@@ -472,10 +472,13 @@ func TestSameProgramSameAnswers(t *testing.T) {
 	}
 	detour.Drop("l=@L;")
 	detour.Add(stmts[0])
-	want := loaded(t, full()).Print()
+	direct := loaded(t, full())
 	for i, s := range []*alias.Session{risen, fallen, detour} {
-		if p := s.Print(); p != want {
+		if p, want := s.Print(), direct.Print(); p != want {
 			t.Errorf("P2: way %d: Print() = %q, want %q", i, p, want)
+		}
+		if b, want := s.Batch(), direct.Batch(); b != want {
+			t.Errorf("P2: way %d: Batch() = %q, want %q", i, b, want)
 		}
 	}
 }

@@ -60,3 +60,26 @@ func readSingle(text string) (statement, Errno, int) {
 	}
 	return stmt, OK, 0
 }
+
+// names tells whether a statement names this variable. What a statement lacks
+// is 0, so a byte that is no variable must not be held against it.
+func names(stmts []statement, v byte) bool {
+	if !fits('x', v) {
+		return false
+	}
+	for _, stmt := range stmts {
+		if stmt.x == v || stmt.y == v {
+			return true
+		}
+	}
+	return false
+}
+
+// readName reads a text that is just one variable, which a statement names.
+func readName(stmts []statement, text string) (byte, bool) {
+	if len(text) != 1 {
+		return 0, false
+	}
+	v := text[0]
+	return v, names(stmts, v)
+}

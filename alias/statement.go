@@ -9,6 +9,14 @@ const (
 	kinds     = 4
 )
 
+// The letters of variables and of sites.
+const (
+	firstVariable = 'a'
+	lastVariable  = 'l'
+	firstSite     = 'A'
+	lastSite      = 'L'
+)
+
 // A statement holds the letters and the digit of its text by the marks of its
 // kind's shape. What the shape lacks is 0, so that == tells equal statements.
 type statement struct {
@@ -37,9 +45,9 @@ func shapeOf(kind int) string {
 func fits(mark byte, b byte) bool {
 	switch mark {
 	case 'x', 'y':
-		return 'a' <= b && b <= 'l'
+		return firstVariable <= b && b <= lastVariable
 	case 'o':
-		return 'A' <= b && b <= 'L'
+		return firstSite <= b && b <= lastSite
 	case 'f':
 		return '0' <= b && b <= '5'
 	}
