@@ -129,7 +129,27 @@ func (s *Session) Batch() string {
 }
 
 // Refine answers the fewest fields that need be told apart (P12).
-func (s *Session) Refine(v string) (string, Errno) { return "", OK }
+func (s *Session) Refine(v string) (string, Errno) {
+	name, ok := readName(s.stmts, v)
+	if !ok {
+		return "", ErrName
+	}
+	return fewestFields(s.stmts, name), OK
+}
 
 // Why answers a reason why a variable may point to an object (P13, P14).
-func (s *Session) Why(v string, o string) (string, Errno) { return "", OK }
+func (s *Session) Why(v string, o string) (string, Errno) {
+	name, ok := readName(s.stmts, v)
+	if !ok {
+		return "", ErrName
+	}
+	if len(o) != 1 {
+		return "", ErrNone
+	}
+	site := o[0]
+	exact := leastTable(s.stmts, allFields)
+	if !exact.has(name, site) {
+		return "", ErrNone
+	}
+	return reasonFor(s.stmts, name, site), OK
+}

@@ -3,6 +3,9 @@ package alias
 // The text of all fields: what is exact goes by it.
 const allFields = "012345"
 
+// How many texts of fields there are: each field is in a text or not.
+const fieldTexts = 1 << len(allFields)
+
 // isFields tells whether a text is a text of fields. One that is longer than
 // the text of all is refused unread.
 func isFields(text string) bool {
@@ -28,4 +31,26 @@ func toldApart(fields string, f byte) bool {
 		}
 	}
 	return false
+}
+
+// fieldText answers the text of fields of a number from 0 on, below fieldTexts:
+// each of its binary digits tells of one field whether it is in the text.
+func fieldText(number int) string {
+	var out []byte
+	for i := 0; i < len(allFields); i++ {
+		if number%2 == 1 {
+			out = append(out, allFields[i])
+		}
+		number /= 2
+	}
+	return string(out)
+}
+
+// isAhead tells whether a text is shorter than another one, or as short and
+// lower.
+func isAhead(text string, other string) bool {
+	if len(text) != len(other) {
+		return len(text) < len(other)
+	}
+	return text < other
 }

@@ -449,7 +449,8 @@ func TestLongNamesAndFieldsAreNotRead(t *testing.T) {
 // Answers go by the program at the time of the call, in each of two sessions,
 // and asking leaves no trace (P1, P2, P7).
 func TestAnswersBehindChanges(t *testing.T) {
-	state, texts := uint32(3), fieldTexts()
+	state, texts, ordered := uint32(3), fieldTexts(), orderedFields()
+	var lengths [7]int
 	sessions := [2]*alias.Session{alias.New(), alias.New()}
 	models := [2]map[string]bool{{}, {}}
 	for n := 0; n < 600; n++ {
@@ -472,7 +473,9 @@ func TestAnswersBehindChanges(t *testing.T) {
 			exact, fields := leastFacts(present, allFields), texts[step(&state, 64)]
 			for _, asked := range []string{"", fields, ""} {
 				checkAnswers(t, sessions[k], present, asked, leastFacts(present, asked), exact)
+				checkReasons(t, sessions[k], present)
 			}
+			checkRefine(t, sessions[k], present, ordered, &lengths)
 			if p := sessions[k].Print(); p != strings.Join(present, "") {
 				t.Fatalf("P1: behind asking Print() = %q, want %q", p, present)
 			}

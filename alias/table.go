@@ -37,6 +37,11 @@ func (t table) of(v byte) sites {
 	return t.rows[i]
 }
 
+// has tells whether a variable may point to a site.
+func (t table) has(v byte, o byte) bool {
+	return t.of(v)&only(o) != 0
+}
+
 // plus answers the table that says these sites of the variable, too.
 func (t table) plus(v byte, more sites) table {
 	i := int(v) - firstVariable
@@ -97,4 +102,23 @@ func leastTable(stmts []statement, fields string) table {
 			return t
 		}
 	}
+}
+
+// fewestFields answers the shortest text of fields by which the least table
+// says of a variable what is exact, and of those as short the lowest one. The
+// text of all fields is one that does.
+func fewestFields(stmts []statement, v byte) string {
+	best := allFields
+	exact := leastTable(stmts, allFields)
+	for number := 0; number < fieldTexts; number++ {
+		fields := fieldText(number)
+		if !isAhead(fields, best) {
+			continue
+		}
+		told := leastTable(stmts, fields)
+		if told.of(v) == exact.of(v) {
+			best = fields
+		}
+	}
+	return best
 }
